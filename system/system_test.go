@@ -406,45 +406,42 @@ func TestText(t *testing.T) {
 		if got, f := Parse(text); !equal(got, s) || f != (api.Fault{}) {
 			t.Fatalf("Parse(%q) is %v %v", text, got, f)
 		}
-		if got, f := Parse(strings.TrimSuffix(text, "\n")); !equal(got, s) || f != (api.Fault{}) {
-			t.Fatalf("Parse of %q without the last line feed is %v %v", text, got, f)
-		}
 	}
 }
 
 func TestParse(t *testing.T) {
 	// Words that look like other lines.
 	s := api.System{States: 3, Events: []string{"states", "event", "_0"}, Arcs: []api.Edge{arc(0, 1, 1), arc(1, 0, 2), arc(2, 2, 0)}}
-	if got, f := Parse("states 3\nevent states\nevent event\nevent _0\n0 event 1\n1 states 2\n2 _0 0"); !equal(got, s) || f != (api.Fault{}) {
+	if got, f := Parse("states 3\nevent states\nevent event\nevent _0\n0 event 1\n1 states 2\n2 _0 0\n"); !equal(got, s) || f != (api.Fault{}) {
 		t.Error(got, f)
 	}
 }
 
 func TestParseFaults(t *testing.T) {
 	for text, want := range map[string]api.Fault{
-		strings.Repeat("x", api.MaxText+1):     {Errno: api.ErrSize},
-		strings.Repeat("x", api.MaxText):       {Errno: api.ErrSyntax, At: 1},
+		strings.Repeat("x", api.MaxText+1):        {Errno: api.ErrSize},
+		strings.Repeat("x", api.MaxText-1) + "\n": {Errno: api.ErrSyntax, At: 1},
 		"":                                     {Errno: api.ErrSyntax, At: 1},
 		"\n":                                   {Errno: api.ErrSyntax, At: 1},
 		"\nstates 1\n":                         {Errno: api.ErrSyntax, At: 1},
 		"states 1\n\n":                         {Errno: api.ErrSyntax, At: 2},
 		"states 1\n\nevent a\n":                {Errno: api.ErrSyntax, At: 2},
-		"states":                               {Errno: api.ErrSyntax, At: 1},
-		"states ":                              {Errno: api.ErrSyntax, At: 1},
-		"states 1 ":                            {Errno: api.ErrSyntax, At: 1},
-		" states 1":                            {Errno: api.ErrSyntax, At: 1},
-		"states  1":                            {Errno: api.ErrSyntax, At: 1},
-		"states 1 1":                           {Errno: api.ErrSyntax, At: 1},
-		"states 01":                            {Errno: api.ErrSyntax, At: 1},
-		"states +1":                            {Errno: api.ErrSyntax, At: 1},
-		"states -1":                            {Errno: api.ErrSyntax, At: 1},
-		"states -0":                            {Errno: api.ErrSyntax, At: 1},
-		"states 1048577":                       {Errno: api.ErrSyntax, At: 1},
-		"states 99999999999999999999":          {Errno: api.ErrSyntax, At: 1},
+		"states\n":                             {Errno: api.ErrSyntax, At: 1},
+		"states \n":                            {Errno: api.ErrSyntax, At: 1},
+		"states 1 \n":                          {Errno: api.ErrSyntax, At: 1},
+		" states 1\n":                          {Errno: api.ErrSyntax, At: 1},
+		"states  1\n":                          {Errno: api.ErrSyntax, At: 1},
+		"states 1 1\n":                         {Errno: api.ErrSyntax, At: 1},
+		"states 01\n":                          {Errno: api.ErrSyntax, At: 1},
+		"states +1\n":                          {Errno: api.ErrSyntax, At: 1},
+		"states -1\n":                          {Errno: api.ErrSyntax, At: 1},
+		"states -0\n":                          {Errno: api.ErrSyntax, At: 1},
+		"states 1048577\n":                     {Errno: api.ErrSyntax, At: 1},
+		"states 99999999999999999999\n":        {Errno: api.ErrSyntax, At: 1},
 		"states 1\r\n":                         {Errno: api.ErrSyntax, At: 1},
-		"States 1":                             {Errno: api.ErrSyntax, At: 1},
-		"event a":                              {Errno: api.ErrSyntax, At: 1},
-		"0 a 1":                                {Errno: api.ErrSyntax, At: 1},
+		"States 1\n":                           {Errno: api.ErrSyntax, At: 1},
+		"event a\n":                            {Errno: api.ErrSyntax, At: 1},
+		"0 a 1\n":                              {Errno: api.ErrSyntax, At: 1},
 		"states 1\nstates 1\n":                 {Errno: api.ErrSyntax, At: 2},
 		"states 2\nevent\n":                    {Errno: api.ErrSyntax, At: 2},
 		"states 2\nevent \n":                   {Errno: api.ErrSyntax, At: 2},
@@ -465,9 +462,9 @@ func TestParseFaults(t *testing.T) {
 		"states 2\nevent a\n0 a 1048577\n":     {Errno: api.ErrSyntax, At: 3},
 		"states 2\nevent a\n0 a 1\n \n":        {Errno: api.ErrSyntax, At: 4},
 		"states 2\nevent a\n0\ta\t1\n":         {Errno: api.ErrSyntax, At: 3},
-		"states 0\nevent A\nevent A\n9 A 9\nevent a":   {Errno: api.ErrSyntax, At: 5},
+		"states 0\nevent A\nevent A\n9 A 9\nevent a\n": {Errno: api.ErrSyntax, At: 5},
 		"states 0\nevent A\nevent A\n9 A 9\n":          {Errno: api.ErrSize},
-		"states 201":                                   {Errno: api.ErrSize},
+		"states 201\n":                                 {Errno: api.ErrSize},
 		"states 1048576\n":                             {Errno: api.ErrSize},
 		"states 1\nevent a\nevent B\n":                 {Errno: api.ErrName, At: 1},
 		"states 1\nevent a\r\n":                        {Errno: api.ErrName},
@@ -484,5 +481,74 @@ func TestParseFaults(t *testing.T) {
 		if s, f := Parse(text); !equal(s, api.System{}) || f != want {
 			t.Errorf("Parse(%.60q) is %v %v, want %v", text, s, f, want)
 		}
+	}
+}
+
+func TestParseLastLineWithoutLineFeed(t *testing.T) {
+	for text, want := range map[string]api.Fault{
+		"":                            {Errno: api.ErrSyntax, At: 1},
+		"states 4":                    {Errno: api.ErrSyntax, At: 1},
+		"states 4\r":                  {Errno: api.ErrSyntax, At: 1},
+		"states 4\n ":                 {Errno: api.ErrSyntax, At: 2},
+		"states 2\nevent a":           {Errno: api.ErrSyntax, At: 2},
+		"states 2\nevent a\n0 a 1":    {Errno: api.ErrSyntax, At: 3},
+		"states 2\nevent a\n0 a 1\nx": {Errno: api.ErrSyntax, At: 4},
+		// The size comes first, and then an earlier line.
+		"states 1\n" + strings.Repeat("x", api.MaxText): {Errno: api.ErrSize},
+		"states 01\nevent a":                            {Errno: api.ErrSyntax, At: 1},
+		"states 2\nevents a\n0 a 1":                     {Errno: api.ErrSyntax, At: 2},
+		// The faults of Check come after it.
+		"states 0":                                 {Errno: api.ErrSyntax, At: 1},
+		"states 201":                               {Errno: api.ErrSyntax, At: 1},
+		"states 1\nevent A":                        {Errno: api.ErrSyntax, At: 2},
+		"states 1\nevent a\nevent a":               {Errno: api.ErrSyntax, At: 3},
+		"states 1\nevent a\n0 a 1":                 {Errno: api.ErrSyntax, At: 3},
+		"states 2\nevent a\n1 a 0\n0 a 1":          {Errno: api.ErrSyntax, At: 4},
+		"states 0\nevent A\nevent A\n9 A 9\n7 A 7": {Errno: api.ErrSyntax, At: 5},
+	} {
+		if s, f := Parse(text); !equal(s, api.System{}) || f != want {
+			t.Errorf("Parse(%.60q) is %v %v, want %v", text, s, f, want)
+		}
+	}
+}
+
+func TestParseOfArbitraryPrefixes(t *testing.T) {
+	source := rand.New(rand.NewSource(48))
+	for range 100 {
+		text, _ := Text(random(source))
+		for end := range text {
+			prefix := text[:end]
+			want := api.Fault{}
+			if !strings.HasSuffix(prefix, "\n") {
+				want = api.Fault{Errno: api.ErrSyntax, At: 1 + strings.Count(prefix, "\n")}
+			}
+			s, f := Parse(prefix)
+			if f != want || f.Errno != api.OK && !equal(s, api.System{}) {
+				t.Fatalf("Parse(%q) is %v %v, want %v", prefix, s, f, want)
+			}
+		}
+	}
+}
+
+func TestParsedTextsAreTheirTexts(t *testing.T) {
+	source := rand.New(rand.NewSource(49))
+	const letters = "\n\n 01ae2"
+	parsed := 0
+	for range 20000 {
+		text, _ := Text(random(source))
+		at := source.Intn(len(text) + 1)
+		until := at + source.Intn(min(3, len(text)-at+1))
+		changed := text[:at] + string(letters[source.Intn(len(letters))]) + text[until:]
+		s, f := Parse(changed)
+		if f.Errno != api.OK {
+			continue
+		}
+		parsed++
+		if back, g := Text(s); back != changed || g != (api.Fault{}) {
+			t.Fatalf("Parse(%q) is %v, and its text %q %v", changed, s, back, g)
+		}
+	}
+	if parsed == 0 {
+		t.Error("no text was parsed")
 	}
 }

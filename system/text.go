@@ -38,19 +38,33 @@ func Parse(t string) (api.System, api.Fault) {
 	if len(t) > api.MaxText {
 		return api.System{}, api.Fault{Errno: api.ErrSize}
 	}
-	var r reader
-	at := 0
-	// The text ends with a line feed or without one; both end the last line.
-	for line := range strings.SplitSeq(strings.TrimSuffix(t, "\n"), "\n") {
-		at++
-		if !r.read(words(line)) {
-			return api.System{}, api.Fault{Errno: api.ErrSyntax, At: at}
-		}
+	s, faulty := readLines(t)
+	if faulty > 0 {
+		return api.System{}, api.Fault{Errno: api.ErrSyntax, At: faulty}
 	}
-	if f := Check(r.system); f.Errno != api.OK {
+	if f := Check(s); f.Errno != api.OK {
 		return api.System{}, f
 	}
-	return r.system, api.Fault{}
+	return s, api.Fault{}
+}
+
+// readLines returns the system of a text, and 0 or the number of the first line that is not permitted.
+func readLines(t string) (api.System, int) {
+	var r reader
+	at := 0
+	for line := range strings.Lines(t) {
+		at++
+		// A line feed ends each line, also the last one: Text would not write a line without it.
+		content, ended := strings.CutSuffix(line, "\n")
+		if !ended || !r.read(words(content)) {
+			return api.System{}, at
+		}
+	}
+	if !r.started {
+		// The empty text has no lines at all; its line 1 is the one that is missing.
+		return api.System{}, 1
+	}
+	return r.system, 0
 }
 
 // words returns the parts of a line between its spaces.
