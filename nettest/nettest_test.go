@@ -1,0 +1,50 @@
+package nettest
+
+import (
+	"slices"
+	"testing"
+
+	"petrinet/api"
+	"petrinet/net"
+)
+
+func TestRandom(t *testing.T) {
+	kinds := map[bool]int{}
+	for seed := range uint64(300) {
+		n := Random(seed, Shape{Places: 4, Trans: 5, Tokens: 2, Weight: 3})
+		if f := net.Check(n); f != (api.Fault{}) || !net.Plain(n) || len(n.Places) > 4 || len(n.Trans) > 5 {
+			t.Fatal(n, f)
+		}
+		if !net.Same(n, Random(seed, Shape{Places: 4, Trans: 5, Tokens: 2, Weight: 3})) {
+			t.Fatal("another net for the same seed", seed)
+		}
+		n = Random(seed, Shape{Places: 4, Trans: 5, Tokens: 2, Weight: 3, Cap: 2, Inh: 2, Prio: 1})
+		if f := net.Check(n); f != (api.Fault{}) {
+			t.Fatal(n, f)
+		}
+		kinds[net.Plain(n)]++
+	}
+	if kinds[false] < 200 {
+		t.Error("too few nets with capacities, inhibitors or priorities", kinds)
+	}
+}
+
+func TestMade(t *testing.T) {
+	if l := Arcs(3, 1, 0, 2); !slices.Equal(l, []api.Arc{{Place: 3, W: 1}, {Place: 0, W: 2}}) {
+		t.Error(l)
+	}
+	want := api.Net{Name: "n", Places: []api.Place{{Name: "p0"}, {Name: "p1"}}, Trans: []api.Trans{{Name: "t0", Pre: Ones(0, 1)}, {Name: "t1", Pre: Arcs(1, 1), Post: Arcs(0, 1)}}}
+	if n := Ordinary(2, [2][]int{{0, 1}, {}}, [2][]int{{1}, {0}}); !net.Same(n, want) {
+		t.Error(n)
+	}
+}
+
+func TestReachable(t *testing.T) {
+	n := api.Net{Name: "n", Places: []api.Place{{Name: "p", Init: 2}, {Name: "q"}}, Trans: []api.Trans{{Name: "t", Pre: []api.Arc{{Place: 0, W: 1}}, Post: []api.Arc{{Place: 1, W: 1}}}}}
+	if l, all := Reachable(n, 3); len(l) != 3 || !all || l[2][1] != 2 {
+		t.Error(l, all)
+	}
+	if l, all := Reachable(n, 2); len(l) != 2 || all {
+		t.Error(l, all)
+	}
+}
