@@ -1,23 +1,26 @@
-package branching
+package process
 
 import (
 	"iter"
 	"math/bits"
 )
 
-// set is a set of natural numbers, one bit for each.
-type set []uint64
+// Set is a set of natural numbers, one bit for each.
+type Set []uint64
 
-func (s set) has(i int) bool {
+// Has reports whether the set contains i.
+func (s Set) Has(i int) bool {
 	return i/64 < len(s) && s[i/64]&(1<<(i%64)) != 0
 }
 
-func (s *set) add(i int) {
+// Add adds i.
+func (s *Set) Add(i int) {
 	s.widen(i/64 + 1)
 	(*s)[i/64] |= 1 << (i % 64)
 }
 
-func (s *set) addAll(more set) {
+// AddAll adds the elements of another set.
+func (s *Set) AddAll(more Set) {
 	s.widen(len(more))
 	for i, word := range more {
 		(*s)[i] |= word
@@ -25,14 +28,14 @@ func (s *set) addAll(more set) {
 }
 
 // widen gives the set at least n words.
-func (s *set) widen(n int) {
+func (s *Set) widen(n int) {
 	if n > len(*s) {
-		*s = append(*s, make(set, n-len(*s))...)
+		*s = append(*s, make(Set, n-len(*s))...)
 	}
 }
 
-// elements yields the elements in ascending order.
-func (s set) elements() iter.Seq[int] {
+// Elements yields the elements in ascending order.
+func (s Set) Elements() iter.Seq[int] {
 	return func(yield func(int) bool) {
 		for i, word := range s {
 			for ; word != 0; word &= word - 1 {
