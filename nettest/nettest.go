@@ -2,6 +2,7 @@
 package nettest
 
 import (
+	"slices"
 	"strconv"
 
 	"petrinet/api"
@@ -94,6 +95,43 @@ func Ordinary(places int, trans ...[2][]int) api.Net {
 	}
 	for i, t := range trans {
 		n.Trans = append(n.Trans, api.Trans{Name: "t" + strconv.Itoa(i), Pre: Ones(t[0]...), Post: Ones(t[1]...)})
+	}
+	return n
+}
+
+// Marked returns the net with one token on each of the places; it changes the net.
+func Marked(n api.Net, places ...int) api.Net {
+	for _, p := range places {
+		n.Places[p].Init = 1
+	}
+	return n
+}
+
+// Admitting returns a random net that admits processes; the same net for the same seed.
+func Admitting(seed uint64) api.Net {
+	n := Random(seed, Shape{Places: 7, Trans: 6, Tokens: 1, Weight: 1})
+	n.Trans = slices.DeleteFunc(n.Trans, func(t api.Trans) bool { return len(t.Pre) == 0 })
+	return n
+}
+
+// Parts returns a random safe net of parts with so many places and one token each, which the transitions move; the same net for the same seed.
+func Parts(seed uint64, count, places, transitions int) api.Net {
+	s := &source{random.Steps(seed, 2)}
+	var list [][2][]int
+	for range transitions {
+		var t [2][]int
+		always := s.upTo(count - 1)
+		for part := range count {
+			if part == always || s.upTo(sparseness-1) == 0 {
+				t[0] = append(t[0], part*places+s.upTo(places-1))
+				t[1] = append(t[1], part*places+s.upTo(places-1))
+			}
+		}
+		list = append(list, t)
+	}
+	n := Ordinary(count*places, list...)
+	for part := range count {
+		n.Places[part*places+s.upTo(places-1)].Init = 1
 	}
 	return n
 }

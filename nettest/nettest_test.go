@@ -37,6 +37,42 @@ func TestMade(t *testing.T) {
 	if n := Ordinary(2, [2][]int{{0, 1}, {}}, [2][]int{{1}, {0}}); !net.Same(n, want) {
 		t.Error(n)
 	}
+	if m := net.Initial(Marked(want, 1)); !slices.Equal(m, []int{0, 1}) {
+		t.Error(m)
+	}
+}
+
+func TestAdmitting(t *testing.T) {
+	sizes := map[int]bool{}
+	for seed := range uint64(200) {
+		n := Admitting(seed)
+		source := func(u api.Trans) bool { return len(u.Pre) == 0 }
+		second := func(p api.Place) bool { return p.Init > 1 }
+		if !net.Plain(n) || !net.Ordinary(n) || slices.ContainsFunc(n.Trans, source) || slices.ContainsFunc(n.Places, second) || !net.Same(n, Admitting(seed)) {
+			t.Fatal(n)
+		}
+		sizes[len(n.Trans)] = true
+	}
+	if len(sizes) < 5 {
+		t.Error(sizes)
+	}
+}
+
+func TestParts(t *testing.T) {
+	for seed := range uint64(200) {
+		n := Parts(seed, 3, 2, 5)
+		markings, all := Reachable(n, 8)
+		if f := net.Check(n); f != (api.Fault{}) || len(n.Places) != 6 || len(n.Trans) != 5 || !all || !net.Same(n, Parts(seed, 3, 2, 5)) {
+			t.Fatal(n, f, all)
+		}
+		for _, m := range markings {
+			for part := range 3 {
+				if m[2*part]+m[2*part+1] != 1 {
+					t.Fatal(n, m)
+				}
+			}
+		}
+	}
 }
 
 func TestReachable(t *testing.T) {

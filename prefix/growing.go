@@ -19,13 +19,13 @@ type growing struct {
 	causes []process.Set
 	levels []int
 	// reached has the initial marking, and the markings of the events that are not cut-off events.
-	reached  map[tokens]bool
+	reached  map[process.Tokens]bool
 	possible queue
 }
 
 // start returns the prefix without events.
 func start(n api.Net, initial api.Branching, limit int) *growing {
-	g := &growing{Process: process.New(n, initial.Conds), reached: map[tokens]bool{markingAfter(initial, nil): true}}
+	g := &growing{Process: process.New(n, initial.Conds), reached: map[process.Tokens]bool{process.After(initial, nil): true}}
 	for p := range n.Places {
 		g.consumers = append(g.consumers, net.Consumers(n, p))
 	}
@@ -46,7 +46,7 @@ func (g *growing) grow(x extension) bool {
 	g.causes = append(g.causes, x.causes)
 	g.levels = append(g.levels, x.level)
 	// The causes of an earlier event with this marking are less: they are not greater, and in a safe process different configurations have different forms.
-	m := markingAfter(g.Branching, slices.Collect(x.causes.Elements()))
+	m := process.After(g.Branching, slices.Collect(x.causes.Elements()))
 	if g.reached[m] {
 		g.Events[e].Cut = true
 		return true

@@ -16,17 +16,9 @@ import (
 
 type ends = [2][]int
 
-// marked returns the net with one token on each of the places.
-func marked(n api.Net, places ...int) api.Net {
-	for _, p := range places {
-		n.Places[p].Init = 1
-	}
-	return n
-}
-
 // cycle has the places p and q with one token on p, and a transition in each direction.
 func cycle() api.Net {
-	return marked(nettest.Ordinary(2, ends{{0}, {1}}, ends{{1}, {0}}), 0)
+	return nettest.Marked(nettest.Ordinary(2, ends{{0}, {1}}, ends{{1}, {0}}), 0)
 }
 
 func cyclePrefix() api.Branching {
@@ -38,7 +30,7 @@ func cyclePrefix() api.Branching {
 
 // diamond has two concurrent transitions, a transition that joins them, and one that does the same at once; then a transition leads back to the place of the first one.
 func diamond() api.Net {
-	return marked(nettest.Ordinary(5, ends{{0}, {2}}, ends{{1}, {3}}, ends{{2, 3}, {4}}, ends{{0, 1}, {4}}, ends{{4}, {0, 3}}), 0, 1)
+	return nettest.Marked(nettest.Ordinary(5, ends{{0}, {2}}, ends{{1}, {3}}, ends{{2, 3}, {4}}, ends{{0, 1}, {4}}, ends{{4}, {0, 3}}), 0, 1)
 }
 
 func isZero(b api.Branching) bool {
@@ -72,7 +64,7 @@ func TestExamples(t *testing.T) {
 	if conds, events, cutoffs := Size(b); conds != 3 || events != 2 || cutoffs != 1 {
 		t.Error(conds, events, cutoffs)
 	}
-	loop := marked(nettest.Ordinary(1, ends{{0}, {0}}), 0)
+	loop := nettest.Marked(nettest.Ordinary(1, ends{{0}, {0}}), 0)
 	b, e = Build(loop, 1)
 	if e != api.OK || !same(b, api.Branching{Conds: []api.Cond{{From: -1}, {From: 0}}, Events: []api.Event{{Pre: []int{0}, Post: []int{1}, Cut: true}}}) {
 		t.Error(b, e)
@@ -111,16 +103,16 @@ func TestSmallNets(t *testing.T) {
 		conds, events, cutoffs int
 	}{
 		{nettest.Ordinary(1), 0, 0, 0},
-		{marked(nettest.Ordinary(2), 1), 1, 0, 0},
+		{nettest.Marked(nettest.Ordinary(2), 1), 1, 0, 0},
 		// Nothing is enabled.
 		{nettest.Ordinary(2, ends{{0}, {1}}), 0, 0, 0},
-		{marked(nettest.Ordinary(2, ends{{0, 1}, {1}}), 0), 1, 0, 0},
+		{nettest.Marked(nettest.Ordinary(2, ends{{0, 1}, {1}}), 0), 1, 0, 0},
 		// Two transitions without output lead to the same marking; the first one is less.
-		{marked(nettest.Ordinary(1, ends{{0}, nil}, ends{{0}, nil}), 0), 1, 2, 1},
+		{nettest.Marked(nettest.Ordinary(1, ends{{0}, nil}, ends{{0}, nil}), 0), 1, 2, 1},
 		// Two independent transitions lead to different markings.
-		{marked(nettest.Ordinary(4, ends{{0}, {1}}, ends{{2}, {3}}), 0, 2), 4, 2, 0},
+		{nettest.Marked(nettest.Ordinary(4, ends{{0}, {1}}, ends{{2}, {3}}), 0, 2), 4, 2, 0},
 		// Each of them can be repeated.
-		{marked(nettest.Ordinary(2, ends{{0}, {0}}, ends{{1}, {1}}), 0, 1), 4, 2, 2},
+		{nettest.Marked(nettest.Ordinary(2, ends{{0}, {0}}, ends{{1}, {1}}), 0, 1), 4, 2, 2},
 	} {
 		b, e := Build(c.n, max(1, c.events))
 		if conds, events, cutoffs := Size(b); e != api.OK || conds != c.conds || events != c.events || cutoffs != c.cutoffs {
@@ -161,18 +153,18 @@ func TestErrors(t *testing.T) {
 		{diamond(), 5, api.OK},
 		{diamond(), api.MaxEvents, api.OK},
 		// The output meets an initial condition with its place, at once or as the second event.
-		{marked(nettest.Ordinary(2, ends{{0}, {1}}), 0, 1), 1, api.ErrUnsafe},
-		{marked(nettest.Ordinary(3, ends{{0}, {1}}, ends{{1}, {2}}), 0, 2), 1, api.ErrLimit},
-		{marked(nettest.Ordinary(3, ends{{0}, {1}}, ends{{1}, {2}}), 0, 2), 2, api.ErrUnsafe},
+		{nettest.Marked(nettest.Ordinary(2, ends{{0}, {1}}), 0, 1), 1, api.ErrUnsafe},
+		{nettest.Marked(nettest.Ordinary(3, ends{{0}, {1}}, ends{{1}, {2}}), 0, 2), 1, api.ErrLimit},
+		{nettest.Marked(nettest.Ordinary(3, ends{{0}, {1}}, ends{{1}, {2}}), 0, 2), 2, api.ErrUnsafe},
 		// The output of a transition meets that of another one, or of a cut-off event.
-		{marked(nettest.Ordinary(3, ends{{0}, {2}}, ends{{1}, {2}}), 0, 1), 2, api.ErrUnsafe},
-		{marked(nettest.Ordinary(4, ends{{0}, {2}}, ends{{0}, {2}}, ends{{1}, {3}}, ends{{3}, {2}}), 0, 1), 9, api.ErrUnsafe},
+		{nettest.Marked(nettest.Ordinary(3, ends{{0}, {2}}, ends{{1}, {2}}), 0, 1), 2, api.ErrUnsafe},
+		{nettest.Marked(nettest.Ordinary(4, ends{{0}, {2}}, ends{{0}, {2}}, ends{{1}, {3}}, ends{{3}, {2}}), 0, 1), 9, api.ErrUnsafe},
 		// The output of the second one, a cut-off event, meets that of the third one, which is in conflict with the first one.
-		{marked(nettest.Ordinary(3, ends{{0, 1}, {1, 2}}, ends{{0}, {2}}, ends{{1}, {2}}), 0, 1), 2, api.ErrLimit},
-		{marked(nettest.Ordinary(3, ends{{0, 1}, {1, 2}}, ends{{0}, {2}}, ends{{1}, {2}}), 0, 1), 3, api.ErrUnsafe},
+		{nettest.Marked(nettest.Ordinary(3, ends{{0, 1}, {1, 2}}, ends{{0}, {2}}, ends{{1}, {2}}), 0, 1), 2, api.ErrLimit},
+		{nettest.Marked(nettest.Ordinary(3, ends{{0, 1}, {1, 2}}, ends{{0}, {2}}, ends{{1}, {2}}), 0, 1), 3, api.ErrUnsafe},
 		// The place has a second token only where the first one has been taken, or cannot be.
-		{marked(nettest.Ordinary(2, ends{{0, 1}, {1}}), 0, 1), 9, api.OK},
-		{marked(nettest.Ordinary(2, ends{{0}, {1}}, ends{{0}, {1}}), 0), 9, api.OK},
+		{nettest.Marked(nettest.Ordinary(2, ends{{0, 1}, {1}}), 0, 1), 9, api.OK},
+		{nettest.Marked(nettest.Ordinary(2, ends{{0}, {1}}, ends{{0}, {1}}), 0), 9, api.OK},
 	} {
 		b, e := Build(c.n, c.limit)
 		if e != c.e || e != api.OK && !isZero(b) {
@@ -239,34 +231,6 @@ func buildByDefinition(n api.Net, limit int) (api.Branching, api.Errno) {
 	}
 }
 
-// parts returns a safe net of parts with one token each, which the transitions move.
-func parts(r *rand.Rand, count, places, transitions int) api.Net {
-	var list []ends
-	for range transitions {
-		var t ends
-		always := r.Intn(count)
-		for part := range count {
-			if part == always || r.Intn(3) == 0 {
-				t[0] = append(t[0], part*places+r.Intn(places))
-				t[1] = append(t[1], part*places+r.Intn(places))
-			}
-		}
-		list = append(list, t)
-	}
-	n := nettest.Ordinary(count*places, list...)
-	for part := range count {
-		n.Places[part*places+r.Intn(places)].Init = 1
-	}
-	return n
-}
-
-// admitting returns a random net that admits processes.
-func admitting(seed uint64) api.Net {
-	n := nettest.Random(seed, nettest.Shape{Places: 7, Trans: 6, Tokens: 1, Weight: 1})
-	n.Trans = slices.DeleteFunc(n.Trans, func(t api.Trans) bool { return len(t.Pre) == 0 })
-	return n
-}
-
 // turns returns a safe net whose transitions can each be done once, in any order; each of them uses some of the resources and returns them, so that some can be done at once. The last transition comes after all.
 func turns(r *rand.Rand, transitions, resources int) api.Net {
 	var list []ends
@@ -288,12 +252,12 @@ func turns(r *rand.Rand, transitions, resources int) api.Net {
 	for resource := range resources {
 		marks = append(marks, resource)
 	}
-	return marked(n, marks...)
+	return nettest.Marked(n, marks...)
 }
 
 // crossing returns a net in which transition 2 or 3 can occur together with 4, and after 5 the other one of them. Although their events have the same level, 2 comes after 3 and 4, as it follows 1 and these follow 0.
 func crossing() api.Net {
-	return marked(nettest.Ordinary(9, ends{{0}, {3, 4}}, ends{{1}, {2}}, ends{{2, 5}, {7}}, ends{{3, 5}, {7}}, ends{{4, 6}, {8}}, ends{{7, 8}, {5, 6}}), 0, 1, 5, 6)
+	return nettest.Marked(nettest.Ordinary(9, ends{{0}, {3, 4}}, ends{{1}, {2}}, ends{{2, 5}, {7}}, ends{{3, 5}, {7}}, ends{{4, 6}, {8}}, ends{{7, 8}, {5, 6}}), 0, 1, 5, 6)
 }
 
 // many returns a net with many independent transitions, one of which puts a second token on a place.
@@ -305,7 +269,7 @@ func many(r *rand.Rand) api.Net {
 		marks = append(marks, place)
 	}
 	list[r.Intn(5)][1] = []int{20}
-	return marked(nettest.Ordinary(21, list...), append(marks, 20)...)
+	return nettest.Marked(nettest.Ordinary(21, list...), append(marks, 20)...)
 }
 
 func TestByDefinition(t *testing.T) {
@@ -326,8 +290,8 @@ func TestByDefinition(t *testing.T) {
 		checkPrefix(t, n, b, e)
 	}
 	for seed := range uint64(1000) {
-		compare(admitting(seed), 1+r.Intn(9))
-		compare(parts(r, 1+r.Intn(3), 2+r.Intn(2), 3+r.Intn(8)), 1+r.Intn(40))
+		compare(nettest.Admitting(seed), 1+r.Intn(9))
+		compare(nettest.Parts(r.Uint64(), 1+r.Intn(3), 2+r.Intn(2), 3+r.Intn(8)), 1+r.Intn(40))
 	}
 	for range 60 {
 		compare(turns(r, 4, 3), 100)
@@ -393,7 +357,7 @@ func TestComplete(t *testing.T) {
 		t.Error("Complete")
 	}
 	// Every part of the prefix of a net that is not safe is incomplete.
-	unsafe := marked(nettest.Ordinary(3, ends{{0}, {2}}, ends{{1}, {2}}), 0, 1)
+	unsafe := nettest.Marked(nettest.Ordinary(3, ends{{0}, {2}}, ends{{1}, {2}}), 0, 1)
 	for b, _ := branching.Initial(unsafe); ; {
 		if Complete(unsafe, b) {
 			t.Error(b)
@@ -425,9 +389,9 @@ func TestCorresponding(t *testing.T) {
 	found := map[bool]int{}
 	later := 0
 	for seed := range uint64(400) {
-		n := admitting(seed)
+		n := nettest.Admitting(seed)
 		if seed%2 == 0 {
-			n = parts(r, 2, 2, 5)
+			n = nettest.Parts(r.Uint64(), 2, 2, 5)
 		}
 		b, _ := branching.Initial(n)
 		for range 8 {
@@ -483,7 +447,7 @@ func TestNothingCorresponding(t *testing.T) {
 		}
 	}
 	// The first event with the marking is less, the second one is not: its transition is greater.
-	n = marked(nettest.Ordinary(2, ends{{0}, {1}}, ends{{0}, {1}}), 0)
+	n = nettest.Marked(nettest.Ordinary(2, ends{{0}, {1}}, ends{{0}, {1}}), 0)
 	b, _ := branching.Initial(n)
 	b, _ = branching.Add(n, b, 1, []int{0})
 	b, _ = branching.Add(n, b, 0, []int{0})
@@ -508,9 +472,9 @@ func TestReachable(t *testing.T) {
 	r := rand.New(rand.NewSource(294))
 	cases := 0
 	for seed := range uint64(1200) {
-		n := admitting(seed)
+		n := nettest.Admitting(seed)
 		if seed%2 == 0 {
-			n = parts(r, 1+r.Intn(3), 2+r.Intn(2), 2+r.Intn(5))
+			n = nettest.Parts(r.Uint64(), 1+r.Intn(3), 2+r.Intn(2), 2+r.Intn(5))
 		}
 		b, e := Build(n, api.MaxEvents)
 		markings, all := nettest.Reachable(n, 2000)
@@ -580,7 +544,7 @@ func switches(count, others int) api.Net {
 		}
 	}
 	list = append(list, ends{join, nil})
-	return marked(nettest.Ordinary(count*(others+1), list...), all...)
+	return nettest.Marked(nettest.Ordinary(count*(others+1), list...), all...)
 }
 
 func TestLarge(t *testing.T) {
@@ -612,7 +576,7 @@ func counter(bits int) api.Net {
 		list = append(list, ends{append(t[0], 2*bit), append(t[1], 2*bit+1)})
 		marks = append(marks, 2*bit)
 	}
-	return marked(nettest.Ordinary(2*bits, list...), marks...)
+	return nettest.Marked(nettest.Ordinary(2*bits, list...), marks...)
 }
 
 func TestLongChain(t *testing.T) {

@@ -48,6 +48,11 @@ func (p *Process) Concurrent(c, d int) bool {
 	return e < 0 || f < 0 || !p.conflicts[e].Has(f)
 }
 
+// Parallel reports whether two different events are not in conflict, and neither is before the other one. Where an event has taken a condition of another one, it comes after this one, or is in conflict with it.
+func (p *Process) Parallel(e, f int) bool {
+	return !p.conflicts[e].Has(f) && !p.eaten[e].Has(p.Events[f].Pre[0]) && !p.eaten[f].Has(p.Events[e].Pre[0])
+}
+
 // Add adds an event, which must be possible, and its output conditions.
 func (p *Process) Add(t int, pre []int) {
 	e := len(p.Events)

@@ -66,6 +66,39 @@ func TestProcess(t *testing.T) {
 	}
 }
 
+func TestParallel(t *testing.T) {
+	p := grown()
+	// Event 3 follows events 0 and 2, and event 4 follows event 1.
+	p.Add(3, []int{3, 4})
+	for e := range p.Events {
+		for f := range p.Events {
+			if p.Parallel(e, f) != slices.Contains([][2]int{{0, 2}, {1, 2}, {2, 4}}, [2]int{min(e, f), max(e, f)}) {
+				t.Error(e, f)
+			}
+		}
+	}
+}
+
+func TestAfter(t *testing.T) {
+	b := grown().Branching
+	for _, c := range []struct {
+		events []int
+		want   Tokens
+	}{
+		{nil, Tokens{1, 1}},
+		{[]int{0}, Tokens{0, 1, 1}},
+		{[]int{1, 2}, Tokens{0, 0, 1, 2}},
+		{[]int{0, 2, 3}, Tokens{1, 1}},
+	} {
+		if m := After(b, c.events); m != c.want {
+			t.Error(c.events, m)
+		}
+	}
+	if m := After(api.Branching{}, nil); m != (Tokens{}) {
+		t.Error(m)
+	}
+}
+
 func TestCosets(t *testing.T) {
 	p := grown()
 	for _, c := range []struct {
