@@ -390,3 +390,19 @@ func TestManySteps(t *testing.T) {
 		t.Error(basis, changes, e)
 	}
 }
+
+func TestManyElements(t *testing.T) {
+	target := [][]int{{0, 999}}
+	basis, changes, e := Basis(mover(), target, 1000)
+	if len(basis) != 1000 || changes != 999 || e != api.OK {
+		t.Fatal(len(basis), changes, e)
+	}
+	for i, m := range basis {
+		if !slices.Equal(m, []int{i, 999 - i}) {
+			t.Fatal(i, m)
+		}
+	}
+	if basis, changes, e := Basis(mover(), target, 999); len(basis) != 0 || changes != 0 || e != api.ErrLimit {
+		t.Error(basis, changes, e)
+	}
+}
