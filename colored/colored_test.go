@@ -2,13 +2,13 @@ package colored
 
 import (
 	"math"
-	"math/rand"
 	"slices"
 	"strconv"
 	"testing"
 
 	"petrinet/api"
 	"petrinet/binding"
+	"petrinet/nettest"
 )
 
 // sample has two color sets, and a transition that moves x from p to q and takes y from r, where y comes before z.
@@ -355,57 +355,6 @@ func one(place int) []api.ColorArc {
 	return []api.ColorArc{{Place: place, Terms: []api.Term{{W: 1, Kind: api.All}}}}
 }
 
-// random returns a valid colored net.
-func random(r *rand.Rand) api.ColorNet {
-	c := api.ColorNet{Name: "n"}
-	for i := range 1 + r.Intn(2) {
-		c.Sets = append(c.Sets, api.ColorSet{Name: "s" + strconv.Itoa(i), Values: []string{"a", "b", "c"}[:1+r.Intn(3)]})
-	}
-	for i := range 1 + r.Intn(3) {
-		place := api.ColorPlace{Name: "p" + strconv.Itoa(i), Set: r.Intn(len(c.Sets))}
-		for range c.Sets[place.Set].Values {
-			place.Init = append(place.Init, r.Intn(3))
-		}
-		c.Places = append(c.Places, place)
-	}
-	for i := range r.Intn(4) {
-		t := api.ColorTrans{Name: "t" + strconv.Itoa(i)}
-		for k := range r.Intn(3) {
-			t.Vars = append(t.Vars, api.Var{Name: "x" + strconv.Itoa(k), Set: r.Intn(len(c.Sets))})
-		}
-		if len(t.Vars) == 2 && t.Vars[0].Set == t.Vars[1].Set {
-			t.Guards = []api.Guard{{Op: 1 + r.Intn(3), A: 0, B: 1}}
-		}
-		t.Pre, t.Post = randomArcs(r, c, t), randomArcs(r, c, t)
-		c.Trans = append(c.Trans, t)
-	}
-	return c
-}
-
-func randomArcs(r *rand.Rand, c api.ColorNet, t api.ColorTrans) []api.ColorArc {
-	var arcs []api.ColorArc
-	for p, place := range c.Places {
-		var terms []api.Term
-		for range r.Intn(3) {
-			term := api.Term{W: 1 + r.Intn(2), Kind: 1 + r.Intn(5)}
-			switch term.Kind {
-			case api.Const:
-				term.N = r.Intn(len(c.Sets[place.Set].Values))
-			case api.All:
-			default:
-				term.N = slices.IndexFunc(t.Vars, func(v api.Var) bool { return v.Set == place.Set })
-			}
-			if term.N >= 0 {
-				terms = append(terms, term)
-			}
-		}
-		if len(terms) > 0 {
-			arcs = append(arcs, api.ColorArc{Place: p, Terms: terms})
-		}
-	}
-	return arcs
-}
-
 // fired returns the marking after a transition by the definitions, or nil.
 func fired(c api.ColorNet, m [][]int, t int, b []int) [][]int {
 	var after [][]int
@@ -430,10 +379,9 @@ func fired(c api.ColorNet, m [][]int, t int, b []int) [][]int {
 }
 
 func TestRandomNets(t *testing.T) {
-	r := rand.New(rand.NewSource(41))
 	large := 0
-	for range 400 {
-		c := random(r)
+	for seed := range uint64(400) {
+		c := nettest.Colored(seed)
 		if f := Check(c); f != (api.Fault{}) {
 			t.Fatal(c, f)
 		}

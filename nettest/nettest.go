@@ -26,6 +26,10 @@ type source struct {
 	seed uint64
 }
 
+func sourceOf(seed uint64) *source {
+	return &source{random.Steps(seed, 2)}
+}
+
 // upTo returns a number from 0 to n.
 func (s *source) upTo(n int) int {
 	x, next := random.Below(s.seed, n+1)
@@ -35,7 +39,7 @@ func (s *source) upTo(n int) int {
 
 // Random returns a valid net of that shape, whose Places, Trans and Weight must be at least 1; the same net for the same seed.
 func Random(seed uint64, shape Shape) api.Net {
-	s := &source{random.Steps(seed, 2)}
+	s := sourceOf(seed)
 	n := api.Net{Name: "n" + strconv.FormatUint(seed, 10)}
 	for p := range 1 + s.upTo(shape.Places-1) {
 		place := api.Place{Name: "p" + strconv.Itoa(p), Init: s.upTo(shape.Tokens)}
@@ -116,7 +120,7 @@ func Admitting(seed uint64) api.Net {
 
 // Parts returns a random safe net of parts with so many places and one token each, which the transitions move; the same net for the same seed.
 func Parts(seed uint64, count, places, transitions int) api.Net {
-	s := &source{random.Steps(seed, 2)}
+	s := sourceOf(seed)
 	var list [][2][]int
 	for range transitions {
 		var t [2][]int

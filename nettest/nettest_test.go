@@ -1,11 +1,14 @@
 package nettest
 
 import (
+	"reflect"
 	"slices"
 	"testing"
 
 	"petrinet/api"
+	"petrinet/colored"
 	"petrinet/net"
+	"petrinet/soundness"
 )
 
 func TestRandom(t *testing.T) {
@@ -82,5 +85,42 @@ func TestReachable(t *testing.T) {
 	}
 	if l, all := Reachable(n, 2); len(l) != 2 || all {
 		t.Error(l, all)
+	}
+}
+
+func TestColored(t *testing.T) {
+	guarded := 0
+	for seed := range uint64(300) {
+		c := Colored(seed)
+		if f := colored.Check(c); f != (api.Fault{}) || !reflect.DeepEqual(c, Colored(seed)) {
+			t.Fatal(c, f)
+		}
+		if slices.ContainsFunc(c.Trans, func(u api.ColorTrans) bool { return len(u.Guards) > 0 }) {
+			guarded++
+		}
+	}
+	if guarded < 50 {
+		t.Error(guarded)
+	}
+}
+
+func TestFlow(t *testing.T) {
+	changed := 0
+	for seed := range uint64(300) {
+		n := Flow(seed, 6, 0)
+		sound, e := soundness.Sound(n, api.MaxStates)
+		if !sound || e != api.OK || !net.Same(n, Flow(seed, 6, 0)) {
+			t.Fatal(n, e)
+		}
+		other := Flow(seed, 6, 2)
+		if f := net.Check(other); f != (api.Fault{}) || len(other.Places) != len(n.Places) || len(other.Trans) != len(n.Trans) {
+			t.Fatal(other, f)
+		}
+		if !net.Same(n, other) {
+			changed++
+		}
+	}
+	if changed < 250 {
+		t.Error(changed)
 	}
 }

@@ -250,46 +250,6 @@ func random(seed uint64) api.Net {
 	return n
 }
 
-// refined returns a net that comes from a sequence by steps that keep it a sound workflow net.
-func refined(r *rand.Rand, steps int) api.Net {
-	list := []ends{{{0}, {1}}}
-	places := 2
-	for range steps {
-		t := &list[r.Intn(len(list))]
-		switch p := t[0][0]; {
-		case r.Intn(3) == 0:
-			list = append(list, *t)
-		case r.Intn(3) == 0 && p != 0 && len(t[0]) == 1:
-			// A loop through a new place.
-			list = append(list, ends{{p}, {places}}, ends{{places}, {p}})
-			places++
-		default:
-			// Two transitions one after the other, with one or two new places between them.
-			between := []int{places, places + 1}[:1+r.Intn(2)]
-			after := ends{between, t[1]}
-			t[1] = between
-			list = append(list, after)
-			places += len(between)
-		}
-	}
-	return nettest.Ordinary(places, list...)
-}
-
-// mutated returns the net with another arc, or without one.
-func mutated(r *rand.Rand, n api.Net) api.Net {
-	t := &n.Trans[r.Intn(len(n.Trans))]
-	arcs := []*[]api.Arc{&t.Pre, &t.Post}[r.Intn(2)]
-	place := r.Intn(len(n.Places))
-	other := func(a api.Arc) bool { return a.Place == place }
-	if slices.ContainsFunc(*arcs, other) {
-		*arcs = slices.DeleteFunc(*arcs, other)
-		return n
-	}
-	*arcs = append(*arcs, api.Arc{Place: place, W: 1 + r.Intn(4)/3})
-	slices.SortFunc(*arcs, func(a, b api.Arc) int { return a.Place - b.Place })
-	return n
-}
-
 // paths reports for each marking whether target can be reached from it.
 func paths(n api.Net, markings [][]int, target []int) []bool {
 	ends := make([]bool, len(markings))
@@ -342,10 +302,7 @@ func TestByDefinition(t *testing.T) {
 	for seed := range uint64(5000) {
 		n := random(seed)
 		if seed%2 == 0 {
-			n = refined(r, 1+r.Intn(9))
-			for range r.Intn(4) {
-				n = mutated(r, n)
-			}
+			n = nettest.Flow(seed, 1+r.Intn(9), r.Intn(4))
 		}
 		if !workflow.Is(n) {
 			continue
